@@ -16,12 +16,7 @@ type found struct {
 // eliminated by a method on an array of arrays that is left through a label; a
 // generic function gets a comparing closure; steps are numbered by iota.
 func TestPillarWays(t *testing.T) {
-	var files []*ast.File
-	for _, s := range sources(t) {
-		if filepath.Base(filepath.Dir(s.path)) == "pillar" {
-			files = append(files, s.file)
-		}
-	}
+	files := filesOf(t, "pillar")
 	grids, generics := map[string]bool{}, map[string]bool{}
 	each(files, func(n ast.Node) {
 		switch x := n.(type) {
@@ -39,6 +34,18 @@ func TestPillarWays(t *testing.T) {
 	if want := (found{true, true, true, true, true}); got != want {
 		t.Errorf("ways: %+v", got)
 	}
+}
+
+// filesOf returns the files of a layer, without tests.
+func filesOf(t *testing.T, layer string) []*ast.File {
+	t.Helper()
+	var files []*ast.File
+	for _, s := range sources(t) {
+		if filepath.Base(filepath.Dir(s.path)) == layer {
+			files = append(files, s.file)
+		}
+	}
+	return files
 }
 
 func each(files []*ast.File, see func(ast.Node)) {
