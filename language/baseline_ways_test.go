@@ -53,9 +53,9 @@ func TestBaselineWays(t *testing.T) {
 	}
 }
 
-func leavesByGoto(loop *ast.ForStmt) bool {
+func leavesByGoto(n ast.Node) bool {
 	leaves := false
-	ast.Inspect(loop, func(n ast.Node) bool {
+	ast.Inspect(n, func(n ast.Node) bool {
 		b, ok := n.(*ast.BranchStmt)
 		leaves = leaves || ok && b.Tok == token.GOTO
 		return true

@@ -21,10 +21,7 @@ func TestPillarWays(t *testing.T) {
 	each(files, func(n ast.Node) {
 		switch x := n.(type) {
 		case *ast.TypeSpec:
-			if outer, ok := x.Type.(*ast.ArrayType); ok && outer.Len != nil {
-				inner, ok := outer.Elt.(*ast.ArrayType)
-				grids[x.Name.Name] = ok && inner.Len != nil
-			}
+			grids[x.Name.Name] = isGrid(x.Type)
 		case *ast.FuncDecl:
 			generics[x.Name.Name] = x.Type.TypeParams != nil
 		}
@@ -82,6 +79,16 @@ func (f *found) look(n ast.Node, grids, generics map[string]bool) {
 			return true
 		})
 	}
+}
+
+// isGrid reports whether a type is an array of arrays.
+func isGrid(e ast.Expr) bool {
+	outer, ok := e.(*ast.ArrayType)
+	if !ok || outer.Len == nil {
+		return false
+	}
+	inner, ok := outer.Elt.(*ast.ArrayType)
+	return ok && inner.Len != nil
 }
 
 // base returns the name of a type without its star, package and arguments.
