@@ -18,9 +18,11 @@ func everyBook(d *dice, see func(keys.Book)) {
 			rules = append(rules, rule(x, y))
 		}
 	}
+	see(keys.Book{Things: 2})
 	for _, x := range rules {
 		see(keys.Book{Things: 2, Rules: []keys.Rule{x}})
 		for _, y := range rules {
+			see(keys.Book{Things: 2, Rules: []keys.Rule{x, y}})
 			for _, z := range rules {
 				see(keys.Book{Things: 2, Rules: []keys.Rule{x, y, z}})
 			}
