@@ -111,3 +111,59 @@ func TestStartUp(t *testing.T) {
 		}
 	}
 }
+
+// Rule 3b: the commands are a literal in a function. It fills the variable commands, and Do, Run
+// and Read call it too; the variable stays beside it, and is read for them.
+func TestCommands(t *testing.T) {
+	files := filesOf(t, "logbook")
+	maker := ""
+	each(files, func(n ast.Node) {
+		if v, ok := n.(*ast.ValueSpec); ok && v.Names[0].Name == "commands" {
+			maker = base(callee(v.Values[0]))
+		}
+	})
+	each(files, func(n ast.Node) {
+		if f, ok := n.(*ast.FuncDecl); ok && f.Name.Name == maker && !returnsLiteral(f) {
+			t.Errorf("%s does more than to return a literal", maker)
+		}
+	})
+	for _, name := range []string{"Do", "Run", "Read"} {
+		used := map[string]bool{}
+		use(files, name, used)
+		if maker == "" || !used[maker] || !used["commands"] {
+			t.Errorf("%s uses %q: %v, commands: %v", name, maker, used[maker], used["commands"])
+		}
+	}
+}
+
+// returnsLiteral reports whether all that a function does is to return a literal without calls.
+func returnsLiteral(f *ast.FuncDecl) bool {
+	r, ok := f.Body.List[0].(*ast.ReturnStmt)
+	if !ok || len(r.Results) != 1 {
+		return false
+	}
+	_, literal := r.Results[0].(*ast.CompositeLit)
+	ast.Inspect(r, func(n ast.Node) bool {
+		_, call := n.(*ast.CallExpr)
+		literal = literal && !call
+		return true
+	})
+	return literal
+}
+
+// use adds all names in a function, and in the functions with these names, to those used.
+func use(files []*ast.File, function string, used map[string]bool) {
+	each(files, func(n ast.Node) {
+		f, ok := n.(*ast.FuncDecl)
+		if !ok || f.Name.Name != function {
+			return
+		}
+		ast.Inspect(f.Body, func(n ast.Node) bool {
+			if i, ok := n.(*ast.Ident); ok && !used[i.Name] {
+				used[i.Name] = true
+				use(files, i.Name, used)
+			}
+			return true
+		})
+	})
+}

@@ -24,23 +24,37 @@ type command struct {
 	letters string
 }
 
-// commands are all commands, by their numbers.
+// commands are all commands, by their numbers. They only say where to look first: what a call
+// answers follows from listCommands.
 var commands = listCommands()
 
-// listCommands reads the lines of the chapter's table.
+// listCommands returns the rows of the chapter's table.
 func listCommands() [commandCount]command {
-	var list [commandCount]command
-	for i, form := range [commandCount]string{
-		arrive: "new C",
-		swap:   "swap C D K",
-		note:   "card C n d",
-		mend:   "mend C K",
-		undo:   "undo",
-	} {
-		word, letters, _ := strings.Cut(form, " ")
-		list[i] = command{word, strings.ReplaceAll(letters, " ", "")}
+	return [commandCount]command{
+		arrive: {"new", "C"},
+		swap:   {"swap", "CDK"},
+		note:   {"card", "Cnd"},
+		mend:   {"mend", "CK"},
+		undo:   {"undo", ""},
 	}
-	return list
+}
+
+// find returns the number of the command with a word.
+func find(word string) (number int, known bool) {
+	first := 0
+	for i, c := range commands {
+		if c.word == word {
+			first = i
+		}
+	}
+	list := listCommands()
+	for step := range commandCount {
+		at := (first + step) % commandCount
+		if list[at].word == word {
+			return at, true
+		}
+	}
+	return 0, false
 }
 
 // parse returns the number of a line's command, and the words after it.
@@ -52,12 +66,11 @@ func parse(line string) (number int, words []string, e api.Errno) {
 		return 0, nil, api.ErrForm
 	}
 	words = strings.Split(line, " ")
-	for i, c := range commands {
-		if words[0] == c.word {
-			return i, words[1:], c.check(words[1:])
-		}
+	number, known := find(words[0])
+	if !known {
+		return 0, nil, api.ErrKind
 	}
-	return 0, nil, api.ErrKind
+	return number, words[1:], listCommands()[number].check(words[1:])
 }
 
 // check returns the error of the words after a command.
